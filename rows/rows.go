@@ -38,3 +38,36 @@ func Text(r api.Row, tail int) string {
 	}
 	return text + ">"
 }
+
+// Counts says how often each operation stands in a row.
+type Counts [api.MaxOps]int
+
+// Unify tells what the tails of a and b are, that a and b be one, or that they cannot be.
+func Unify(a, b api.Row, fresh int) ([]api.Bind, bool) {
+	onlyA, onlyB := more(a, b), more(b, a)
+	none := Counts{}
+	switch {
+	case a.Tail == b.Tail:
+		return nil, onlyA == none && onlyB == none
+	case b.Tail < 0 && onlyA != none, a.Tail < 0 && onlyB != none:
+		return nil, false
+	case b.Tail < 0, a.Tail >= 0 && onlyA == none:
+		return []api.Bind{bind(a.Tail, onlyB, b.Tail)}, true
+	case a.Tail < 0, onlyB == none:
+		return []api.Bind{bind(b.Tail, onlyA, a.Tail)}, true
+	}
+	return []api.Bind{bind(a.Tail, onlyB, fresh), bind(b.Tail, onlyA, fresh)}, true
+}
+
+// more is what a has more of each operation than b.
+func more(a, b api.Row) Counts {
+	var left Counts
+	for op := range left {
+		left[op] = max(a.Counts[op]-b.Counts[op], 0)
+	}
+	return left
+}
+
+func bind(tail int, counts Counts, rest int) api.Bind {
+	return api.Bind{Var: tail, IsRow: true, Row: api.Row{Counts: counts, Tail: rest}}
+}
