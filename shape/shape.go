@@ -130,3 +130,14 @@ func (s *Shape) Visit(variable, tail func(v int)) {
 		s.B.Visit(variable, tail)
 	}
 }
+
+// Same tells whether two shapes are those of one type.
+func Same(a, b *Shape) bool {
+	if a == b {
+		return true
+	}
+	if a.Kind != b.Kind || a.Size != b.Size || a.Var != b.Var || a.Row != b.Row {
+		return false
+	}
+	return a.Kind != api.TypeFun || Same(a.A, b.A) && Same(a.B, b.B)
+}
