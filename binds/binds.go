@@ -26,26 +26,28 @@ func (p *part) Error() string { return p.of + ": " + p.err.Error() }
 
 func (p *part) Unwrap() error { return p.err }
 
-// variable is one that is bound; type variables and row variables have numbers of their own.
-type variable struct {
+// bound is a variable that is bound, to a type or to a row.
+type bound struct {
 	number int
 	isRow  bool
+	is     *shape.Shape
+	row    api.Row
 }
 
 // Set is what variables are bound to. What is bound has no variable that is bound itself: each new
 // bind is put into all that are there.
 type Set struct {
-	types map[int]*shape.Shape
-	tails map[int]api.Row
-	// made are the variables that are bound, in the row in which they were.
-	made []variable
+	// made are the binds, in the row in which they were made; types and tails tell where they are.
+	made  []bound
+	types map[int]int
+	tails map[int]int
 	// fresh is the first row variable that nobody has.
 	fresh int
 }
 
 // New is a set without binds, in which row variables are new from this one on.
 func New(fresh int) *Set {
-	return &Set{types: make(map[int]*shape.Shape), tails: make(map[int]api.Row), fresh: fresh}
+	return &Set{types: make(map[int]int), tails: make(map[int]int), fresh: fresh}
 }
 
 // NewTail is a row variable that nobody has.
@@ -68,26 +70,30 @@ func (s *Set) UnderRow(r api.Row) api.Row {
 }
 
 func (s *Set) typeOf(v int) (*shape.Shape, bool) {
-	t, ok := s.types[v]
-	return t, ok
+	i, ok := s.types[v]
+	if !ok {
+		return nil, false
+	}
+	return s.made[i].is, true
 }
 
 func (s *Set) rowOf(tail int) (api.Row, bool) {
-	r, ok := s.tails[tail]
-	return r, ok
+	i, ok := s.tails[tail]
+	if !ok {
+		return api.Row{}, false
+	}
+	return s.made[i].row, true
 }
 
 // Made tells all binds, in the row in which they were made.
 func (s *Set) Made() []api.Bind {
 	var all []api.Bind
-	for _, v := range s.made {
-		b := api.Bind{Var: v.number, IsRow: v.isRow}
-		if v.isRow {
-			b.Row = s.tails[v.number]
+	for _, b := range s.made {
+		if b.isRow {
+			all = append(all, api.Bind{Var: b.number, IsRow: true, Row: b.row})
 		} else {
-			b.Type = s.types[v.number].Type()
+			all = append(all, api.Bind{Var: b.number, Type: b.is.Type()})
 		}
-		all = append(all, b)
 	}
 	return all
 }
@@ -158,37 +164,40 @@ func (s *Set) bind(v int, t *shape.Shape) error {
 	}
 	typeOf := func(other int) (*shape.Shape, bool) { return t, other == v }
 	rowOf := func(int) (api.Row, bool) { return api.Row{}, false }
-	err := s.put(typeOf, rowOf)
-	s.types[v] = t
-	s.made = append(s.made, variable{v, false})
-	return err
+	if err := s.put(typeOf, rowOf); err != nil {
+		return err
+	}
+	s.types[v] = len(s.made)
+	s.made = append(s.made, bound{number: v, is: t})
+	return nil
 }
 
 func (s *Set) bindTail(tail int, r api.Row) error {
 	typeOf := func(int) (*shape.Shape, bool) { return nil, false }
 	rowOf := func(other int) (api.Row, bool) { return r, other == tail }
-	err := s.put(typeOf, rowOf)
-	s.tails[tail] = r
-	s.made = append(s.made, variable{tail, true})
-	return err
+	if err := s.put(typeOf, rowOf); err != nil {
+		return err
+	}
+	s.tails[tail] = len(s.made)
+	s.made = append(s.made, bound{number: tail, isRow: true, row: r})
+	return nil
 }
 
 // put puts a new bind into all that are there.
 func (s *Set) put(typeOf func(v int) (*shape.Shape, bool), rowOf func(tail int) (api.Row, bool)) error {
-	for _, v := range s.made {
-		if v.isRow {
-			r := shape.PutRow(s.tails[v.number], rowOf)
-			if !rows.CountsMay(r) {
+	for i := range s.made {
+		b := &s.made[i]
+		if b.isRow {
+			b.row = shape.PutRow(b.row, rowOf)
+			if !rows.CountsMay(b.row) {
 				return ErrMany
 			}
-			s.tails[v.number] = r
 			continue
 		}
-		t := s.types[v.number].Put(typeOf, rowOf)
-		if !t.Fits() {
+		b.is = b.is.Put(typeOf, rowOf)
+		if !b.is.Fits() {
 			return ErrMany
 		}
-		s.types[v.number] = t
 	}
 	return nil
 }
