@@ -1,4 +1,4 @@
-// Package order gives numbers by first appearance.
+// Package order tells of numbers that come in some row: which came first, whether one came twice.
 package order
 
 // ByFirst makes a function that gives to each thing it is asked for a number, from 0 on: the same one
@@ -13,4 +13,19 @@ func ByFirst() func(thing int) int {
 		}
 		return number
 	}
+}
+
+// AreDistinct tells whether some numbers are from 0 below a limit, each once.
+func AreDistinct(numbers []int, limit int) bool {
+	if len(numbers) > limit {
+		return false
+	}
+	met := make(map[int]struct{})
+	for _, n := range numbers {
+		if _, twice := met[n]; twice || n < 0 || n >= limit {
+			return false
+		}
+		met[n] = struct{}{}
+	}
+	return true
 }

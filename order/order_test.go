@@ -13,3 +13,23 @@ func TestByFirst(t *testing.T) {
 		t.Error("two functions share what they know")
 	}
 }
+
+func TestAreDistinct(t *testing.T) {
+	for _, c := range []struct {
+		numbers []int
+		limit   int
+		want    bool
+	}{
+		{nil, 0, true},
+		{[]int{0}, 1, true},
+		{[]int{2, 0, 1}, 3, true},
+		{[]int{1}, 1, false},
+		{[]int{-1}, 1, false},
+		{[]int{2, 1, 2}, 5, false},
+		{[]int{0, 0}, 1, false},
+	} {
+		if got := AreDistinct(c.numbers, c.limit); got != c.want {
+			t.Errorf("%v below %d: %v", c.numbers, c.limit, got)
+		}
+	}
+}
