@@ -4,10 +4,10 @@ import (
 	"testing"
 
 	"trammel/api"
+	"trammel/build"
 	"trammel/cps"
 	"trammel/hsem"
 	"trammel/infer"
-	"trammel/parse"
 	"trammel/run"
 	"trammel/samples"
 	"trammel/scope"
@@ -141,15 +141,7 @@ func TestHandlers(t *testing.T) {
 		{"handle 1 with o v k -> k v return r -> do o r end", out(api.OutStuck, 0)},
 		{"let rec w x = w x in w 1", out(api.OutFuel, 0)},
 	} {
-		p, _, e := parse.Parse(ops + c.s)
-		if e != api.OK {
-			t.Fatalf("%q: %d", c.s, e)
-		}
-		p, _, e = scope.Resolve(p)
-		if e != api.OK {
-			t.Fatalf("%q: %d", c.s, e)
-		}
-		if first, second := both(t, p, api.MaxFuel); first != c.want || second != c.want {
+		if first, second := both(t, build.Program(ops+c.s), api.MaxFuel); first != c.want || second != c.want {
 			t.Errorf("%q: %v and %v, want %v", c.s, first, second, c.want)
 		}
 	}

@@ -6,24 +6,15 @@ import (
 	"testing"
 
 	"trammel/api"
+	"trammel/build"
 	"trammel/elab"
-	"trammel/parse"
 	"trammel/samples"
 	"trammel/scope"
-	"trammel/typ"
 )
 
 func core(t *testing.T, s string) api.Core {
 	t.Helper()
-	p, at, e := parse.Parse(s)
-	if e != api.OK {
-		t.Fatalf("%q: %d at %d", s, e, at)
-	}
-	p, at, e = scope.Resolve(p)
-	if e != api.OK {
-		t.Fatalf("%q: %d at %d", s, e, at)
-	}
-	c, at, e := elab.Core(p)
+	c, at, e := elab.Core(build.Program(s))
 	if e != api.OK {
 		t.Fatalf("%q: %d at %d", s, e, at)
 	}
@@ -45,31 +36,11 @@ func copied(c api.Core) api.Core {
 	return made
 }
 
-func of(nodes ...api.TyNode) api.Type { return api.Type{Nodes: nodes} }
-
-func base(kind int) api.Type { return of(api.TyNode{Kind: kind}) }
-
-func variable(v int) api.Type { return of(api.TyNode{Kind: api.TypeVar, Var: v}) }
-
-func effects(tail int, counts ...int) api.Row {
-	r := api.Row{Tail: tail}
-	copy(r.Counts[:], counts)
-	return r
-}
-
-func fun(a api.Type, r api.Row, b api.Type) api.Type {
-	f, e := typ.Fun(a, r, b)
-	if e != api.OK {
-		panic(e)
-	}
-	return f
-}
-
 // wide is a function's type of so many operands.
 func wide(operands int) api.Type {
-	t := base(api.TypeInt)
+	t := build.Base(api.TypeInt)
 	for range operands {
-		t = fun(base(api.TypeInt), effects(-1), t)
+		t = build.Fun(build.Base(api.TypeInt), build.Row(-1), t)
 	}
 	return t
 }
@@ -138,19 +109,19 @@ func TestForm(t *testing.T) {
 		func(c *api.Core) { c.Ops[1].Name = "o" },
 		func(c *api.Core) { c.Ops[1].Name = "" },
 		func(c *api.Core) { c.Marks[3].Type = api.Type{} },
-		func(c *api.Core) { c.Marks[3].Type = variable(-1) },
+		func(c *api.Core) { c.Marks[3].Type = build.Var(-1) },
 		func(c *api.Core) { c.Marks[3].Row.Tail = -2 },
 		func(c *api.Core) { c.Marks[3].Row.Counts[0] = 33 },
 		func(c *api.Core) { c.Marks[3].Types[0] = api.Type{} },
 		func(c *api.Core) { c.Marks[0].Types = []api.Type{{}} },
 		func(c *api.Core) { c.Marks[3].Takes[0].Tail = api.MaxVars },
-		func(c *api.Core) { c.Marks[0].Takes = []api.Row{effects(-1, -1)} },
+		func(c *api.Core) { c.Marks[0].Takes = []api.Row{build.Row(-1, -1)} },
 		func(c *api.Core) { c.Marks[5].Vars = []int{0, 0} },
 		func(c *api.Core) { c.Marks[5].Vars = []int{-1} },
 		func(c *api.Core) { c.Marks[5].Rows = []int{api.MaxVars} },
 		func(c *api.Core) { c.Marks[0].Rows = []int{1, 2, 1} },
-		func(c *api.Core) { c.Marks[3].Types = slices.Repeat([]api.Type{base(0)}, api.MaxTypes+1) },
-		func(c *api.Core) { c.Marks[3].Takes = slices.Repeat([]api.Row{effects(-1)}, api.MaxTypes+1) },
+		func(c *api.Core) { c.Marks[3].Types = slices.Repeat([]api.Type{build.Base(0)}, api.MaxTypes+1) },
+		func(c *api.Core) { c.Marks[3].Takes = slices.Repeat([]api.Row{build.Row(-1)}, api.MaxTypes+1) },
 	} {
 		c := copied(good)
 		change(&c)
@@ -159,8 +130,8 @@ func TestForm(t *testing.T) {
 		}
 	}
 	most := copied(good)
-	most.Marks[4].Types = slices.Repeat([]api.Type{base(0)}, api.MaxTypes)
-	most.Marks[4].Takes = slices.Repeat([]api.Row{effects(-1)}, api.MaxTypes)
+	most.Marks[4].Types = slices.Repeat([]api.Type{build.Base(0)}, api.MaxTypes)
+	most.Marks[4].Takes = slices.Repeat([]api.Row{build.Row(-1)}, api.MaxTypes)
 	if at, e := Check(most); at != 4 || e != api.ErrCheckType {
 		t.Errorf("%d, %d", at, e)
 	}
@@ -168,7 +139,7 @@ func TestForm(t *testing.T) {
 
 // P15.1: one change of a core, and the least node of which a rule is not met then.
 func TestRules(t *testing.T) {
-	int0, bool0 := base(api.TypeInt), base(api.TypeBool)
+	int0, bool0 := build.Base(api.TypeInt), build.Base(api.TypeBool)
 	const poly = "let i = fun x -> x in i i"                                // 0 x, 1 fun, 2 i, 3 i, 4 app, 5 let
 	const mono = "let x = (fun x -> x) 1 in x"                              // 0 x, 1 fun, 2 1, 3 app, 4 x, 5 let
 	const rec = "let rec f x = x in f 1"                                    // 0 x, 1 f, 2 1, 3 app, 4 rec
@@ -183,25 +154,25 @@ func TestRules(t *testing.T) {
 		want   int
 	}{
 		// The root, variables that are not known, fields of other kinds.
-		{"1", func(ms []api.Mark) { ms[0].Row = effects(-1, 1) }, 0},
-		{"1", func(ms []api.Mark) { ms[0].Row = effects(0) }, 0},
+		{"1", func(ms []api.Mark) { ms[0].Row = build.Row(-1, 1) }, 0},
+		{"1", func(ms []api.Mark) { ms[0].Row = build.Row(0) }, 0},
 		{"1", func(ms []api.Mark) { ms[0].Vars = []int{0} }, 0},
 		{"1", func(ms []api.Mark) { ms[0].Rows = []int{0} }, 0},
 		{"1", func(ms []api.Mark) { ms[0].Types = []api.Type{int0} }, 0},
-		{"1", func(ms []api.Mark) { ms[0].Takes = []api.Row{effects(-1)} }, 0},
-		{poly, func(ms []api.Mark) { ms[0].Row = effects(7); ms[1].Type.Nodes[2].Row = effects(7) }, 0},
-		{poly, func(ms []api.Mark) { ms[1].Row = effects(7) }, 1},
-		{poly, func(ms []api.Mark) { ms[1].Row = effects(0, 3) }, -1},
-		{poly, func(ms []api.Mark) { ms[1].Row = effects(-1, 3) }, -1},
+		{"1", func(ms []api.Mark) { ms[0].Takes = []api.Row{build.Row(-1)} }, 0},
+		{poly, func(ms []api.Mark) { ms[0].Row = build.Row(7); ms[1].Type.Nodes[2].Row = build.Row(7) }, 0},
+		{poly, func(ms []api.Mark) { ms[1].Row = build.Row(7) }, 1},
+		{poly, func(ms []api.Mark) { ms[1].Row = build.Row(0, 3) }, -1},
+		{poly, func(ms []api.Mark) { ms[1].Row = build.Row(-1, 3) }, -1},
 		{poly, func(ms []api.Mark) { ms[5].Vars = nil }, 0},
 		{poly, func(ms []api.Mark) { ms[5].Rows = nil }, 0},
 		{poly, func(ms []api.Mark) { ms[5].Types = []api.Type{int0} }, 5},
-		{poly, func(ms []api.Mark) { ms[5].Takes = []api.Row{effects(-1)} }, 5},
-		{poly, func(ms []api.Mark) { ms[3].Types[0] = variable(0) }, 3},
+		{poly, func(ms []api.Mark) { ms[5].Takes = []api.Row{build.Row(-1)} }, 5},
+		{poly, func(ms []api.Mark) { ms[3].Types[0] = build.Var(0) }, 3},
 		{poly, func(ms []api.Mark) {
-			ms[3].Types[0], ms[3].Type = variable(0), fun(variable(0), effects(-1), variable(0))
+			ms[3].Types[0], ms[3].Type = build.Var(0), build.Fun(build.Var(0), build.Row(-1), build.Var(0))
 		}, 3},
-		{poly, func(ms []api.Mark) { ms[3].Takes[0] = effects(0) }, 3},
+		{poly, func(ms []api.Mark) { ms[3].Takes[0] = build.Row(0) }, 3},
 		{"let i = fun x -> let j = fun y -> y in x in 1", func(ms []api.Mark) { ms[3].Vars[0] = ms[6].Vars[0] }, 0},
 		{"let i = fun x -> let j = fun y -> x in x in 1", func(ms []api.Mark) { ms[3].Vars = append(ms[3].Vars, ms[6].Vars[0]) }, 3},
 		{"let i = fun x -> let j = fun y -> x in x in 1", func(ms []api.Mark) { ms[3].Rows = append(ms[3].Rows, ms[6].Rows[0]) }, 3},
@@ -211,32 +182,32 @@ func TestRules(t *testing.T) {
 		{poly, func(ms []api.Mark) { ms[3].Types = nil }, 3},
 		{poly, func(ms []api.Mark) { ms[3].Types = append(ms[3].Types, int0) }, 3},
 		{poly, func(ms []api.Mark) { ms[3].Takes = nil }, 3},
-		{poly, func(ms []api.Mark) { ms[3].Takes[0] = effects(-1, 1) }, 3},
+		{poly, func(ms []api.Mark) { ms[3].Takes[0] = build.Row(-1, 1) }, 3},
 		{poly, func(ms []api.Mark) { ms[5].Vars = append(ms[5].Vars, 9) }, 2},
 		// NodeInt, NodeBool, NodeFun, NodeApp.
 		{"1", func(ms []api.Mark) { ms[0].Type = bool0 }, 0},
 		{"true", func(ms []api.Mark) { ms[0].Type = int0 }, 0},
 		{"fun x -> x", func(ms []api.Mark) { ms[0].Type = bool0 }, 0},
-		{"fun x -> x", func(ms []api.Mark) { ms[0].Row = effects(-1, 1) }, 1},
+		{"fun x -> x", func(ms []api.Mark) { ms[0].Row = build.Row(-1, 1) }, 1},
 		{"fun x -> x", func(ms []api.Mark) { ms[1].Type = int0 }, 1},
 		{"fun x -> x", func(ms []api.Mark) { ms[1].Type = bool0; ms[0].Type = bool0 }, 0},
-		{"fun x -> x", func(ms []api.Mark) { ms[1].Type = fun(bool0, effects(-1), bool0) }, 0},
-		{"fun x -> x", func(ms []api.Mark) { ms[1].Type = fun(int0, effects(-1), bool0) }, 1},
-		{"fun x -> 1", func(ms []api.Mark) { ms[1].Type = fun(wide(3), effects(-1), int0) }, -1},
-		{mono, func(ms []api.Mark) { ms[1].Row = effects(-1, 1) }, 3},
-		{mono, func(ms []api.Mark) { ms[2].Row = effects(-1, 1) }, 3},
+		{"fun x -> x", func(ms []api.Mark) { ms[1].Type = build.Fun(bool0, build.Row(-1), bool0) }, 0},
+		{"fun x -> x", func(ms []api.Mark) { ms[1].Type = build.Fun(int0, build.Row(-1), bool0) }, 1},
+		{"fun x -> 1", func(ms []api.Mark) { ms[1].Type = build.Fun(wide(3), build.Row(-1), int0) }, -1},
+		{mono, func(ms []api.Mark) { ms[1].Row = build.Row(-1, 1) }, 3},
+		{mono, func(ms []api.Mark) { ms[2].Row = build.Row(-1, 1) }, 3},
 		{mono, func(ms []api.Mark) { ms[3].Type = bool0 }, 3},
-		{mono, func(ms []api.Mark) { ms[0].Row = effects(-1, 1); ms[1].Type.Nodes[2].Row = effects(-1, 1) }, 3},
+		{mono, func(ms []api.Mark) { ms[0].Row = build.Row(-1, 1); ms[1].Type.Nodes[2].Row = build.Row(-1, 1) }, 3},
 		// NodeLet.
-		{mono, func(ms []api.Mark) { ms[4].Row = effects(-1, 1) }, 5},
+		{mono, func(ms []api.Mark) { ms[4].Row = build.Row(-1, 1) }, 5},
 		{mono, func(ms []api.Mark) { ms[5].Type = bool0 }, 5},
 		{mono, func(ms []api.Mark) { ms[5].Vars = []int{0} }, 4},
-		{mono, func(ms []api.Mark) { ms[5].Rows = []int{0}; ms[4].Takes = []api.Row{effects(-1)} }, 5},
+		{mono, func(ms []api.Mark) { ms[5].Rows = []int{0}; ms[4].Takes = []api.Row{build.Row(-1)} }, 5},
 		{mono, func(ms []api.Mark) {
 			for i := range 4 {
-				ms[i].Row = effects(-1, 1)
+				ms[i].Row = build.Row(-1, 1)
 			}
-			ms[1].Type.Nodes[2].Row = effects(-1, 1)
+			ms[1].Type.Nodes[2].Row = build.Row(-1, 1)
 		}, 5},
 		// NodeRec.
 		{rec, func(ms []api.Mark) { ms[4].Types = nil }, 0},
@@ -247,40 +218,40 @@ func TestRules(t *testing.T) {
 		{"let rec f x = 1 in 2", func(ms []api.Mark) { ms[2].Types[0] = wide(126) }, -1},
 		{"let rec f x = 1 in 2", func(ms []api.Mark) { ms[2].Types[0] = wide(127) }, 2},
 		{"let rec f x = 1 in f", func(ms []api.Mark) { ms[2].Types[0] = wide(127) }, 1},
-		{"let rec f x = 1 in 2", func(ms []api.Mark) { ms[1].Row = effects(-1, 1) }, 2},
+		{"let rec f x = 1 in 2", func(ms []api.Mark) { ms[1].Row = build.Row(-1, 1) }, 2},
 		{"let rec f x = 1 in 2", func(ms []api.Mark) { ms[2].Type = bool0 }, 2},
-		{"let rec f x = 1 in 2", func(ms []api.Mark) { ms[0].Row = effects(-1, 1) }, -1},
-		{"let rec f x = 1 in f 1", func(ms []api.Mark) { ms[0].Row = effects(-1, 1) }, 1},
+		{"let rec f x = 1 in 2", func(ms []api.Mark) { ms[0].Row = build.Row(-1, 1) }, -1},
+		{"let rec f x = 1 in f 1", func(ms []api.Mark) { ms[0].Row = build.Row(-1, 1) }, 1},
 		{"let rec f x = 1 in 2", func(ms []api.Mark) { ms[2].Vars = nil }, 2},
 		{rec, func(ms []api.Mark) { ms[4].Vars = nil }, 0},
 		// NodeIf, NodePrim.
-		{choice, func(ms []api.Mark) { ms[0].Row = effects(-1, 1) }, 3},
-		{choice, func(ms []api.Mark) { ms[1].Row = effects(-1, 1) }, 3},
-		{choice, func(ms []api.Mark) { ms[2].Row = effects(-1, 1) }, 3},
+		{choice, func(ms []api.Mark) { ms[0].Row = build.Row(-1, 1) }, 3},
+		{choice, func(ms []api.Mark) { ms[1].Row = build.Row(-1, 1) }, 3},
+		{choice, func(ms []api.Mark) { ms[2].Row = build.Row(-1, 1) }, 3},
 		{choice, func(ms []api.Mark) { ms[3].Type = bool0 }, 3},
-		{prim, func(ms []api.Mark) { ms[0].Row = effects(-1, 1) }, 2},
-		{prim, func(ms []api.Mark) { ms[1].Row = effects(-1, 1) }, 2},
+		{prim, func(ms []api.Mark) { ms[0].Row = build.Row(-1, 1) }, 2},
+		{prim, func(ms []api.Mark) { ms[1].Row = build.Row(-1, 1) }, 2},
 		{prim, func(ms []api.Mark) { ms[2].Type = bool0 }, 2},
 		{less, func(ms []api.Mark) { ms[2].Type = int0 }, 2},
 		// NodeDo, NodeHandle.
-		{do, func(ms []api.Mark) { ms[0].Row = effects(-1) }, 1},
+		{do, func(ms []api.Mark) { ms[0].Row = build.Row(-1) }, 1},
 		{do, func(ms []api.Mark) { ms[1].Type = bool0 }, 1},
 		{do, func(ms []api.Mark) {
-			ms[0].Row, ms[1].Row = effects(-1), effects(-1)
-			ms[2].Type.Nodes[2].Row = effects(-1)
+			ms[0].Row, ms[1].Row = build.Row(-1), build.Row(-1)
+			ms[2].Type.Nodes[2].Row = build.Row(-1)
 		}, 1},
 		{do, func(ms []api.Mark) {
-			ms[0].Row, ms[1].Row = effects(-1, 2), effects(-1, 2)
-			ms[2].Type.Nodes[2].Row = effects(-1, 2)
+			ms[0].Row, ms[1].Row = build.Row(-1, 2), build.Row(-1, 2)
+			ms[2].Type.Nodes[2].Row = build.Row(-1, 2)
 		}, -1},
-		{handle, func(ms []api.Mark) { ms[0].Row, ms[1].Row = effects(-1, 2), effects(-1, 2) }, 8},
+		{handle, func(ms []api.Mark) { ms[0].Row, ms[1].Row = build.Row(-1, 2), build.Row(-1, 2) }, 8},
 		{handle, func(ms []api.Mark) { ms[1].Type = bool0 }, 1},
-		{handle, func(ms []api.Mark) { ms[4].Row = effects(-1, 1) }, 4},
-		{handle, func(ms []api.Mark) { ms[7].Row = effects(-1, 1) }, 7},
+		{handle, func(ms []api.Mark) { ms[4].Row = build.Row(-1, 1) }, 4},
+		{handle, func(ms []api.Mark) { ms[7].Row = build.Row(-1, 1) }, 7},
 		{handle, func(ms []api.Mark) { ms[8].Type = int0 }, 2},
-		{"handle 1 with o v k -> 2 return r -> 3 end", func(ms []api.Mark) { ms[1].Row = effects(-1, 1) }, 3},
-		{"handle 1 with o v k -> 2 return r -> 3 end", func(ms []api.Mark) { ms[2].Row = effects(-1, 1) }, 3},
-		{"handle 1 with o v k -> 2 return r -> 3 end", func(ms []api.Mark) { ms[0].Row = effects(-1) }, 3},
+		{"handle 1 with o v k -> 2 return r -> 3 end", func(ms []api.Mark) { ms[1].Row = build.Row(-1, 1) }, 3},
+		{"handle 1 with o v k -> 2 return r -> 3 end", func(ms []api.Mark) { ms[2].Row = build.Row(-1, 1) }, 3},
+		{"handle 1 with o v k -> 2 return r -> 3 end", func(ms []api.Mark) { ms[0].Row = build.Row(-1) }, 3},
 		{"handle 1 with o v k -> 2 return r -> 3 end", func(ms []api.Mark) { ms[3].Type = bool0 }, 3},
 		{"handle 1 with o v k -> v return r -> r end", nil, -1},
 	} {
@@ -300,9 +271,9 @@ func TestRules(t *testing.T) {
 
 // P15.1: a handler's row may not be made greater, or its function's type may not be.
 func TestHandlerLimits(t *testing.T) {
-	full := effects(-1, api.MaxCount)
-	build := func(r, inside api.Row, is api.Type) api.Core {
-		int0 := base(api.TypeInt)
+	full := build.Row(-1, api.MaxCount)
+	handler := func(r, inside api.Row, is api.Type) api.Core {
+		int0 := build.Base(api.TypeInt)
 		handle := []api.Node{
 			{Kind: api.NodeInt},
 			{Kind: api.NodeVar, Num: 2},
@@ -312,17 +283,17 @@ func TestHandlerLimits(t *testing.T) {
 		}
 		return api.Core{Ops: []api.Op{{Name: "o"}}, Nodes: handle, Marks: []api.Mark{
 			{Type: int0, Row: inside}, {Type: is, Row: r}, {Type: is, Row: r}, {Type: is, Row: r},
-			{Type: fun(is, r, is), Row: effects(-1)},
+			{Type: build.Fun(is, r, is), Row: build.Row(-1)},
 		}}
 	}
 	small, great := wide(40), wide(63)
-	if at, e := Check(build(effects(-1, 31), full, small)); at != 0 || e != api.OK {
+	if at, e := Check(handler(build.Row(-1, 31), full, small)); at != 0 || e != api.OK {
 		t.Errorf("%d, %d", at, e)
 	}
-	if at, e := Check(build(full, full, small)); at != 3 || e != api.ErrCheckType {
+	if at, e := Check(handler(full, full, small)); at != 3 || e != api.ErrCheckType {
 		t.Errorf("%d, %d", at, e)
 	}
-	if at, e := Check(build(effects(-1), effects(-1, 1), great)); at != 0 || e != api.OK {
+	if at, e := Check(handler(build.Row(-1), build.Row(-1, 1), great)); at != 0 || e != api.OK {
 		t.Errorf("%d, %d", at, e)
 	}
 	// A handler in a function of a type that takes no part of its own.
@@ -337,9 +308,9 @@ func TestHandlerLimits(t *testing.T) {
 		{Kind: api.NodeRec, A: 3, B: 4},
 	}
 	c.Marks = []api.Mark{
-		{Type: base(api.TypeInt), Row: effects(-1, 1)}, {Type: greatest, Row: effects(-1)}, {Type: greatest, Row: effects(-1)},
-		{Type: greatest, Row: effects(-1)}, {Type: base(api.TypeInt), Row: effects(-1)},
-		{Type: base(api.TypeInt), Row: effects(-1), Types: []api.Type{greatest}},
+		{Type: build.Base(api.TypeInt), Row: build.Row(-1, 1)}, {Type: greatest, Row: build.Row(-1)}, {Type: greatest, Row: build.Row(-1)},
+		{Type: greatest, Row: build.Row(-1)}, {Type: build.Base(api.TypeInt), Row: build.Row(-1)},
+		{Type: build.Base(api.TypeInt), Row: build.Row(-1), Types: []api.Type{greatest}},
 	}
 	if at, e := Check(c); at != 3 || e != api.ErrCheckType {
 		t.Errorf("%d, %d", at, e)

@@ -6,6 +6,7 @@ import (
 	"testing"
 
 	"trammel/api"
+	"trammel/build"
 	"trammel/elab"
 	"trammel/row"
 	"trammel/samples"
@@ -36,7 +37,7 @@ func known(ts []api.Type, rs []api.Row, types, tails []int) bool {
 			}
 		}
 		for _, e := range es {
-			rs = append(rs, effects(e))
+			rs = append(rs, build.Row(e))
 		}
 	}
 	for _, r := range rs {
@@ -92,7 +93,7 @@ func (o *oracle) walk(at int, env []api.Scheme, types, tails []int) {
 	o.need(at, binder || len(m.Vars) == 0 && len(m.Rows) == 0)
 	o.need(at, n.Kind == api.NodeVar || len(m.Takes) == 0)
 	o.need(at, n.Kind == api.NodeVar || n.Kind == api.NodeRec || len(m.Types) == 0)
-	int0, bool0 := base(api.TypeInt), base(api.TypeBool)
+	int0, bool0 := build.Base(api.TypeInt), build.Base(api.TypeBool)
 	switch n.Kind {
 	case api.NodeVar:
 		s := env[len(env)-1-n.Num]
@@ -145,16 +146,16 @@ func (o *oracle) walk(at int, env []api.Scheme, types, tails []int) {
 		o.walk(n.B, env, types, tails)
 	case api.NodeDo:
 		op := o.Ops[n.Num]
-		o.need(at, a.Row == m.Row && same(a.Type, base(op.From)) && same(m.Type, base(op.To)) && m.Row.Counts[n.Num] >= 1)
+		o.need(at, a.Row == m.Row && same(a.Type, build.Base(op.From)) && same(m.Type, build.Base(op.To)) && m.Row.Counts[n.Num] >= 1)
 		o.walk(n.A, env, types, tails)
 	case api.NodeHandle:
 		op := o.Ops[n.Num]
 		with, e := row.With(m.Row, n.Num)
-		k := free(base(op.To), m.Row, m.Type)
+		k := free(build.Base(op.To), m.Row, m.Type)
 		o.need(at, e == api.OK && a.Row == with && b.Row == m.Row && c.Row == m.Row && typ.May(k))
 		o.need(at, same(b.Type, m.Type) && same(c.Type, m.Type))
 		o.walk(n.A, env, types, tails)
-		o.walk(n.B, in(mono(base(op.From)), mono(k)), types, tails)
+		o.walk(n.B, in(mono(build.Base(op.From)), mono(k)), types, tails)
 		o.walk(n.C, in(mono(a.Type)), types, tails)
 	}
 }
@@ -209,7 +210,7 @@ func TestOracle(t *testing.T) {
 		}
 		was := copied(c)
 		o := oracle{Core: c}
-		o.need(len(c.Nodes)-1, c.Marks[len(c.Marks)-1].Row == effects(-1))
+		o.need(len(c.Nodes)-1, c.Marks[len(c.Marks)-1].Row == build.Row(-1))
 		o.walk(len(c.Nodes)-1, nil, nil, nil)
 		want, wantError := 0, api.OK
 		if len(o.broken) > 0 {

@@ -7,24 +7,11 @@ import (
 	"testing"
 
 	"trammel/api"
-	"trammel/parse"
+	"trammel/build"
 	"trammel/samples"
 	"trammel/scope"
 	"trammel/target"
 )
-
-func resolved(t *testing.T, s string) api.Program {
-	t.Helper()
-	p, at, e := parse.Parse(s)
-	if e != api.OK {
-		t.Fatalf("%q: %d at %d", s, e, at)
-	}
-	p, at, e = scope.Resolve(p)
-	if e != api.OK {
-		t.Fatalf("%q: %d at %d", s, e, at)
-	}
-	return p
-}
 
 // told writes a term with all that is in its nodes; names are n and their numbers.
 func told(ts []api.Target, at int) string {
@@ -107,7 +94,7 @@ func TestTranslate(t *testing.T) {
 		{"fun a -> handle a with o v k -> a return r -> a end",
 			"ret (fun n0 (app (fix n1 n2 (case n2 n3 (ret n0); 0 n4 n6 (let n5 (fun n7 (app n1 (app n6 n7))) (ret n0)); n1)) (ret n0)))"},
 	} {
-		got, e := Translate(resolved(t, ops+c.s))
+		got, e := Translate(build.Program(ops + c.s))
 		if e != api.OK || !target.May(got) || told(got, len(got)-1) != c.want {
 			t.Errorf("%q: %s, %d, want %s", c.s, told(got, len(got)-1), e, c.want)
 		}

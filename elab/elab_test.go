@@ -8,26 +8,13 @@ import (
 	"testing"
 
 	"trammel/api"
+	"trammel/build"
 	"trammel/infer"
 	"trammel/match"
-	"trammel/parse"
 	"trammel/samples"
 	"trammel/scope"
 	"trammel/typ"
 )
-
-func resolved(t *testing.T, s string) api.Program {
-	t.Helper()
-	p, at, e := parse.Parse(s)
-	if e != api.OK {
-		t.Fatalf("%q: %d at %d", s, e, at)
-	}
-	p, at, e = scope.Resolve(p)
-	if e != api.OK {
-		t.Fatalf("%q: %d at %d", s, e, at)
-	}
-	return p
-}
 
 // told writes a type with the numbers that its variables have.
 func told(ns []api.TyNode, at int) string {
@@ -136,7 +123,7 @@ func TestMarks(t *testing.T) {
 			"(int <> (int <> int)) <>",
 		}},
 	} {
-		p := resolved(t, c.s)
+		p := build.Program(c.s)
 		core, at, e := Core(p)
 		var got []string
 		for _, m := range core.Marks {
@@ -160,9 +147,9 @@ func TestErrors(t *testing.T) {
 		{api.Program{}, 0, api.ErrElabForm},
 		{api.Program{Nodes: []api.Node{{Kind: api.NodeVar, At: 3}}}, 0, api.ErrElabForm},
 		{api.Program{Nodes: []api.Node{{Kind: api.NodeVar, Name: "x"}}}, 0, api.ErrElabForm},
-		{resolved(t, "1 + (2 3)"), 5, api.ErrInferType},
-		{resolved(t, "op o : int -> int; (do o 1) + 2"), 20, api.ErrInferType},
-		{resolved(t, "let d = fun x -> fun f -> f x x in fun x -> "+strings.Repeat("d (", 20)+"x"+strings.Repeat(")", 20)), 0,
+		{build.Program("1 + (2 3)"), 5, api.ErrInferType},
+		{build.Program("op o : int -> int; (do o 1) + 2"), 20, api.ErrInferType},
+		{build.Program("let d = fun x -> fun f -> f x x in fun x -> " + strings.Repeat("d (", 20) + "x" + strings.Repeat(")", 20)), 0,
 			api.ErrInferMany},
 	} {
 		core, at, e := Core(c.p)

@@ -7,24 +7,11 @@ import (
 	"testing"
 
 	"trammel/api"
+	"trammel/build"
 	"trammel/infer"
-	"trammel/parse"
 	"trammel/samples"
 	"trammel/scope"
 )
-
-func resolved(t *testing.T, s string) api.Program {
-	t.Helper()
-	p, at, e := parse.Parse(s)
-	if e != api.OK {
-		t.Fatalf("%q: %d at %d", s, e, at)
-	}
-	p, at, e = scope.Resolve(p)
-	if e != api.OK {
-		t.Fatalf("%q: %d at %d", s, e, at)
-	}
-	return p
-}
 
 func num(n int) api.Outcome   { return api.Outcome{Kind: api.OutInt, Num: n} }
 func is(n int) api.Outcome    { return api.Outcome{Kind: api.OutBool, Num: n} }
@@ -90,7 +77,7 @@ func TestRun(t *testing.T) {
 		{"let k = handle do o 1 with o v k -> k return r -> r + 1 end in k 4 + k 40", num(46), 32},
 		{"(fun f -> f 1 2) (fun x -> fun y -> x - y)", num(-1), 20},
 	} {
-		got, steps, e := Run(resolved(t, ops+c.s), api.MaxFuel)
+		got, steps, e := Run(build.Program(ops+c.s), api.MaxFuel)
 		if got != c.want || e != api.OK {
 			t.Errorf("%q: %v, %d steps, %d, want %v", c.s, got, steps, e, c.want)
 		}
@@ -103,7 +90,7 @@ func TestRun(t *testing.T) {
 // P17.1: with less fuel than steps it is not over, with as much it is.
 func TestFuel(t *testing.T) {
 	for _, s := range []string{"1 + 2", "1 / 0", "1 2", "handle 1 + do o 5 with o v k -> k (v * 2) + k (v * 3) return r -> r end", "7"} {
-		p := resolved(t, ops+s)
+		p := build.Program(ops + s)
 		want, steps, _ := Run(p, api.MaxFuel)
 		for fuel := range steps {
 			if got, made, e := Run(p, fuel); got != only(api.OutFuel) || made != fuel || e != api.OK {
@@ -119,7 +106,7 @@ func TestFuel(t *testing.T) {
 }
 
 func TestForm(t *testing.T) {
-	good := resolved(t, "1")
+	good := build.Program("1")
 	for _, c := range []struct {
 		p    api.Program
 		fuel int
@@ -141,7 +128,7 @@ func TestForm(t *testing.T) {
 func TestFrames(t *testing.T) {
 	// Each turn leaves one frame of the sum.
 	p := func(n string) api.Program {
-		return resolved(t, "let rec f x = if x < 1 then 0 else 1 + f (x - 1) in f "+n)
+		return build.Program("let rec f x = if x < 1 then 0 else 1 + f (x - 1) in f " + n)
 	}
 	// Behind n turns there are n frames, and at most 3 more in the last one.
 	if got, _, _ := Run(p("4092"), api.MaxFuel); got != num(4092) {
@@ -320,7 +307,7 @@ func TestDeepStacks(t *testing.T) {
 		// Names bound far out.
 		strings.Repeat("let a = 1 in ", 36) + "let rec w x = w (x + a) in w 0",
 	} {
-		if got, steps, e := Run(resolved(t, ops+s), api.MaxFuel); got.Kind != api.OutFuel || e != api.OK {
+		if got, steps, e := Run(build.Program(ops+s), api.MaxFuel); got.Kind != api.OutFuel || e != api.OK {
 			t.Errorf("%q: %v, %d steps, %d", s, got, steps, e)
 		}
 	}

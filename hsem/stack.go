@@ -35,7 +35,8 @@ type stack struct {
 	below *segments
 }
 
-func (s *stack) frames() int { return s.count + s.below.frames() }
+// Frames is how many there are.
+func (s *stack) Frames() int { return s.count + s.below.frames() }
 
 func (s *stack) push(f frame) {
 	s.top = &link{f, s.top}

@@ -6,26 +6,12 @@ import (
 	"testing"
 
 	"trammel/api"
+	"trammel/build"
 	"trammel/match"
-	"trammel/parse"
 	"trammel/samples"
 	"trammel/scope"
 	"trammel/typ"
 )
-
-// resolved is a text's resolved program.
-func resolved(t *testing.T, s string) api.Program {
-	t.Helper()
-	p, at, e := parse.Parse(s)
-	if e != api.OK {
-		t.Fatalf("%q: %d at %d", s, e, at)
-	}
-	p, at, e = scope.Resolve(p)
-	if e != api.OK {
-		t.Fatalf("%q: %d at %d", s, e, at)
-	}
-	return p
-}
 
 const ops = "op o : int -> int; op q : int -> bool; op b : bool -> int; "
 
@@ -76,7 +62,7 @@ func TestTypes(t *testing.T) {
 		{"handle handle do o 1 with q v k -> k true return r -> r end with o v k -> 1 return r -> r end", "int"},
 		{"handle do o 1 with o v k -> fun s -> k s (s + 1) return r -> fun s -> r end", "(int -<> int)"},
 	} {
-		got, at, e := Infer(resolved(t, ops+c.s))
+		got, at, e := Infer(build.Program(ops + c.s))
 		text, _ := typ.Text(got)
 		if text != c.want || at != 0 || e != api.OK {
 			t.Errorf("%q: %q, %d, %d, want %q", c.s, text, at, e, c.want)
@@ -133,7 +119,7 @@ func TestErrors(t *testing.T) {
 		{"handle do o 1 with q v k -> k true return r -> r end", "do o"},
 	} {
 		s := ops + c.s
-		got, at, e := Infer(resolved(t, s))
+		got, at, e := Infer(build.Program(s))
 		want := len(ops) + strings.LastIndex(c.s, c.text)
 		if got.Nodes != nil || at != want || e != api.ErrInferType {
 			t.Errorf("%q: %v, %d, %d, want %d", c.s, got, at-len(ops), e, want-len(ops))
@@ -177,16 +163,16 @@ func TestTypesTooGreat(t *testing.T) {
 	text := func(n int) string {
 		return "let d = fun x -> fun f -> f x x in fun x -> " + strings.Repeat("d (", n) + "x" + strings.Repeat(")", n)
 	}
-	if got, at, e := Infer(resolved(t, text(4))); e != api.OK || len(got.Nodes) > api.MaxTypes {
+	if got, at, e := Infer(build.Program(text(4))); e != api.OK || len(got.Nodes) > api.MaxTypes {
 		t.Errorf("%d nodes, %d, %d", len(got.Nodes), at, e)
 	}
 	for _, n := range []int{7, 30} {
 		s := text(n)
-		got, at, e := Infer(resolved(t, s))
+		got, at, e := Infer(build.Program(s))
 		if got.Nodes != nil || e != api.ErrInferMany || s[at] != 'd' {
 			t.Errorf("%d: %v, %d, %d", n, got, at, e)
 		}
-		if marks, again, e := Marks(resolved(t, s)); marks != nil || again != at || e != api.ErrInferMany {
+		if marks, again, e := Marks(build.Program(s)); marks != nil || again != at || e != api.ErrInferMany {
 			t.Errorf("%d: %d, %d", n, again, e)
 		}
 	}

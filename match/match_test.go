@@ -4,79 +4,55 @@ import (
 	"testing"
 
 	"trammel/api"
+	"trammel/build"
 	"trammel/samples"
 	"trammel/subst"
-	"trammel/typ"
 	"trammel/unify"
 )
 
-func of(nodes ...api.TyNode) api.Type { return api.Type{Nodes: nodes} }
-
-func integer() api.Type { return of(api.TyNode{Kind: api.TypeInt}) }
-
-func truth() api.Type { return of(api.TyNode{Kind: api.TypeBool}) }
-
-func variable(v int) api.Type { return of(api.TyNode{Kind: api.TypeVar, Var: v}) }
-
-func row(tail int, counts ...int) api.Row {
-	r := api.Row{Tail: tail}
-	copy(r.Counts[:], counts)
-	return r
-}
-
-func fun(a api.Type, r api.Row, b api.Type) api.Type {
-	f, e := typ.Fun(a, r, b)
-	if e != api.OK {
-		panic(e)
-	}
-	return f
-}
-
-func pure(a, b api.Type) api.Type { return fun(a, row(-1), b) }
-
 func TestInstance(t *testing.T) {
-	id := pure(variable(1), variable(1))
+	id := build.Pure(build.Var(1), build.Var(1))
 	for i, c := range []struct {
 		general, special api.Type
 		want             bool
 	}{
-		{integer(), integer(), true},
-		{integer(), truth(), false},
-		{integer(), variable(0), false},
-		{integer(), id, false},
-		{id, integer(), false},
-		{variable(0), integer(), true},
-		{variable(0), variable(0), true},
-		{variable(0), variable(9), true},
+		{build.Int(), build.Int(), true},
+		{build.Int(), build.Bool(), false},
+		{build.Int(), build.Var(0), false},
+		{build.Int(), id, false},
+		{id, build.Int(), false},
+		{build.Var(0), build.Int(), true},
+		{build.Var(0), build.Var(0), true},
+		{build.Var(0), build.Var(9), true},
 		// A variable of the special type is none of the general one, though it has its number.
-		{variable(1), id, true},
-		{id, pure(integer(), integer()), true},
-		{id, pure(integer(), truth()), false},
-		{id, pure(id, id), true},
-		{id, pure(id, pure(variable(2), variable(2))), false},
-		{id, pure(variable(2), variable(1)), false},
-		{pure(variable(1), variable(2)), id, true},
-		{pure(variable(1), variable(2)), pure(variable(2), variable(1)), true},
-		{pure(integer(), variable(2)), pure(truth(), truth()), false},
-		{pure(variable(2), integer()), pure(truth(), truth()), false},
+		{build.Var(1), id, true},
+		{id, build.Pure(build.Int(), build.Int()), true},
+		{id, build.Pure(build.Int(), build.Bool()), false},
+		{id, build.Pure(id, id), true},
+		{id, build.Pure(id, build.Pure(build.Var(2), build.Var(2))), false},
+		{id, build.Pure(build.Var(2), build.Var(1)), false},
+		{build.Pure(build.Var(1), build.Var(2)), id, true},
+		{build.Pure(build.Var(1), build.Var(2)), build.Pure(build.Var(2), build.Var(1)), true},
+		{build.Pure(build.Int(), build.Var(2)), build.Pure(build.Bool(), build.Bool()), false},
+		{build.Pure(build.Var(2), build.Int()), build.Pure(build.Bool(), build.Bool()), false},
 		// Rows.
-		{id, fun(integer(), row(-1, 1), integer()), false},
-		{id, fun(integer(), row(0), integer()), false},
-		{fun(integer(), row(0), integer()), fun(integer(), row(-1), integer()), true},
-		{fun(integer(), row(0), integer()), fun(integer(), row(3, 2), integer()), true},
-		{fun(integer(), row(0, 1), integer()), fun(integer(), row(3, 2), integer()), true},
-		{fun(integer(), row(0, 3), integer()), fun(integer(), row(3, 2), integer()), false},
-		{fun(integer(), row(0, 1), integer()), fun(integer(), row(-1, 0, 1), integer()), false},
-		{fun(integer(), row(-1, 1), integer()), fun(integer(), row(-1, 1), integer()), true},
-		{fun(integer(), row(-1, 1), integer()), fun(integer(), row(-1, 2), integer()), false},
-		{fun(integer(), row(-1, 1), integer()), fun(integer(), row(2, 1), integer()), false},
+		{id, build.Fun(build.Int(), build.Row(-1, 1), build.Int()), false},
+		{id, build.Fun(build.Int(), build.Row(0), build.Int()), false},
+		{build.Fun(build.Int(), build.Row(0), build.Int()), build.Fun(build.Int(), build.Row(-1), build.Int()), true},
+		{build.Fun(build.Int(), build.Row(0), build.Int()), build.Fun(build.Int(), build.Row(3, 2), build.Int()), true},
+		{build.Fun(build.Int(), build.Row(0, 1), build.Int()), build.Fun(build.Int(), build.Row(3, 2), build.Int()), true},
+		{build.Fun(build.Int(), build.Row(0, 3), build.Int()), build.Fun(build.Int(), build.Row(3, 2), build.Int()), false},
+		{build.Fun(build.Int(), build.Row(0, 1), build.Int()), build.Fun(build.Int(), build.Row(-1, 0, 1), build.Int()), false},
+		{build.Fun(build.Int(), build.Row(-1, 1), build.Int()), build.Fun(build.Int(), build.Row(-1, 1), build.Int()), true},
+		{build.Fun(build.Int(), build.Row(-1, 1), build.Int()), build.Fun(build.Int(), build.Row(-1, 2), build.Int()), false},
+		{build.Fun(build.Int(), build.Row(-1, 1), build.Int()), build.Fun(build.Int(), build.Row(2, 1), build.Int()), false},
 		// One tail is one row, wherever it stands.
-		{fun(pureIn(0), row(0, 1), integer()), fun(pureIn(0), row(0, 1), integer()), true},
-		{fun(pureIn(0), row(0, 1), integer()), fun(pureIn(5), row(5, 1), integer()), true},
-		{fun(pureIn(0), row(0, 1), integer()), fun(pureIn(0), row(1, 1), integer()), false},
-		{fun(pureIn(0), row(0, 1), integer()), fun(pureIn(0), row(0, 2), integer()), false},
-		{fun(pureIn(0), row(1), integer()), fun(pureIn(0), row(0), integer()), true},
-		{fun(variable(0), row(0), integer()), fun(integer(), row(-1, 32, 32, 32, 32), integer()), true},
+		{build.Fun(pureIn(0), build.Row(0, 1), build.Int()), build.Fun(pureIn(0), build.Row(0, 1), build.Int()), true},
+		{build.Fun(pureIn(0), build.Row(0, 1), build.Int()), build.Fun(pureIn(5), build.Row(5, 1), build.Int()), true},
+		{build.Fun(pureIn(0), build.Row(0, 1), build.Int()), build.Fun(pureIn(0), build.Row(1, 1), build.Int()), false},
+		{build.Fun(pureIn(0), build.Row(0, 1), build.Int()), build.Fun(pureIn(0), build.Row(0, 2), build.Int()), false},
+		{build.Fun(pureIn(0), build.Row(1), build.Int()), build.Fun(pureIn(0), build.Row(0), build.Int()), true},
+		{build.Fun(build.Var(0), build.Row(0), build.Int()), build.Fun(build.Int(), build.Row(-1, 32, 32, 32, 32), build.Int()), true},
 	} {
 		if got, e := Instance(c.general, c.special); got != c.want || e != api.OK {
 			t.Errorf("%d: %v, %d", i, got, e)
@@ -85,24 +61,24 @@ func TestInstance(t *testing.T) {
 }
 
 // pureIn is a function's type whose row is a tail.
-func pureIn(tail int) api.Type { return fun(integer(), row(tail), integer()) }
+func pureIn(tail int) api.Type { return build.Fun(build.Int(), build.Row(tail), build.Int()) }
 
 func TestEqual(t *testing.T) {
 	for i, c := range []struct {
 		a, b api.Type
 		want bool
 	}{
-		{integer(), integer(), true},
-		{integer(), truth(), false},
-		{variable(3), variable(0), true},
-		{variable(3), integer(), false},
-		{pure(variable(3), variable(0)), pure(variable(0), variable(3)), true},
-		{pure(variable(3), variable(0)), pure(variable(1), variable(1)), false},
+		{build.Int(), build.Int(), true},
+		{build.Int(), build.Bool(), false},
+		{build.Var(3), build.Var(0), true},
+		{build.Var(3), build.Int(), false},
+		{build.Pure(build.Var(3), build.Var(0)), build.Pure(build.Var(0), build.Var(3)), true},
+		{build.Pure(build.Var(3), build.Var(0)), build.Pure(build.Var(1), build.Var(1)), false},
 		{pureIn(4), pureIn(7), true},
 		{pureIn(4), pureIn(-1), false},
-		{fun(pureIn(4), row(4), variable(4)), fun(pureIn(2), row(2), variable(9)), true},
-		{fun(pureIn(4), row(4), variable(4)), fun(pureIn(2), row(3), variable(9)), false},
-		{fun(integer(), row(1, 1), integer()), fun(integer(), row(1, 2), integer()), false},
+		{build.Fun(pureIn(4), build.Row(4), build.Var(4)), build.Fun(pureIn(2), build.Row(2), build.Var(9)), true},
+		{build.Fun(pureIn(4), build.Row(4), build.Var(4)), build.Fun(pureIn(2), build.Row(3), build.Var(9)), false},
+		{build.Fun(build.Int(), build.Row(1, 1), build.Int()), build.Fun(build.Int(), build.Row(1, 2), build.Int()), false},
 	} {
 		if got, e := Equal(c.a, c.b); got != c.want || e != api.OK {
 			t.Errorf("%d: %v, %d", i, got, e)
@@ -111,13 +87,13 @@ func TestEqual(t *testing.T) {
 }
 
 func TestForm(t *testing.T) {
-	for _, bad := range []api.Type{{}, of(api.TyNode{Kind: 4}), of(api.TyNode{Kind: api.TypeVar, Var: -1}),
-		of(api.TyNode{}, api.TyNode{}), of(api.TyNode{A: 1})} {
+	for _, bad := range []api.Type{{}, build.Of(api.TyNode{Kind: 4}), build.Of(api.TyNode{Kind: api.TypeVar, Var: -1}),
+		build.Of(api.TyNode{}, api.TyNode{}), build.Of(api.TyNode{A: 1})} {
 		for _, call := range []func(a, b api.Type) (bool, api.Errno){Instance, Equal} {
-			if got, e := call(bad, integer()); got || e != api.ErrMatchForm {
+			if got, e := call(bad, build.Int()); got || e != api.ErrMatchForm {
 				t.Errorf("%v: %v, %d", bad, got, e)
 			}
-			if got, e := call(integer(), bad); got || e != api.ErrMatchForm {
+			if got, e := call(build.Int(), bad); got || e != api.ErrMatchForm {
 				t.Errorf("%v: %v, %d", bad, got, e)
 			}
 		}

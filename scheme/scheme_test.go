@@ -6,35 +6,15 @@ import (
 	"testing"
 
 	"trammel/api"
+	"trammel/build"
 	"trammel/match"
 	"trammel/samples"
 	"trammel/subst"
-	"trammel/typ"
 )
-
-func of(nodes ...api.TyNode) api.Type { return api.Type{Nodes: nodes} }
-
-func integer() api.Type { return of(api.TyNode{Kind: api.TypeInt}) }
-
-func variable(v int) api.Type { return of(api.TyNode{Kind: api.TypeVar, Var: v}) }
-
-func row(tail int, counts ...int) api.Row {
-	r := api.Row{Tail: tail}
-	copy(r.Counts[:], counts)
-	return r
-}
-
-func fun(a api.Type, r api.Row, b api.Type) api.Type {
-	f, e := typ.Fun(a, r, b)
-	if e != api.OK {
-		panic(e)
-	}
-	return f
-}
 
 // sample has type variables 5, 2, 8 and row variables 4, 9 by first appearance.
 func sample() api.Type {
-	return fun(variable(5), row(4), fun(fun(variable(2), row(9), variable(5)), row(4, 1), variable(8)))
+	return build.Fun(build.Var(5), build.Row(4), build.Fun(build.Fun(build.Var(2), build.Row(9), build.Var(5)), build.Row(4, 1), build.Var(8)))
 }
 
 func TestClose(t *testing.T) {
@@ -58,10 +38,10 @@ func TestClose(t *testing.T) {
 			t.Error("what is answered shares memory with what is handed in")
 		}
 	}
-	if s, e := Close(integer(), nil, nil); e != api.OK || s.Vars != nil || s.Rows != nil {
+	if s, e := Close(build.Int(), nil, nil); e != api.OK || s.Vars != nil || s.Rows != nil {
 		t.Errorf("%v, %d", s, e)
 	}
-	for _, bad := range []api.Type{{}, of(api.TyNode{Kind: 4}), of(api.TyNode{}, api.TyNode{})} {
+	for _, bad := range []api.Type{{}, build.Of(api.TyNode{Kind: 4}), build.Of(api.TyNode{}, api.TyNode{})} {
 		if s, e := Close(bad, nil, nil); !reflect.DeepEqual(s, api.Scheme{}) || e != api.ErrSchemeForm {
 			t.Errorf("%v: %v, %d", bad, s, e)
 		}
@@ -70,18 +50,18 @@ func TestClose(t *testing.T) {
 
 func TestTake(t *testing.T) {
 	s := api.Scheme{Vars: []int{2, 5}, Rows: []int{9}, Type: sample()}
-	got, e := Take(s, []api.Type{variable(5), fun(integer(), row(9), variable(2))}, []api.Row{row(4, 0, 2)})
-	five := fun(integer(), row(9), variable(2))
-	want := fun(five, row(4), fun(fun(variable(5), row(4, 0, 2), five), row(4, 1), variable(8)))
+	got, e := Take(s, []api.Type{build.Var(5), build.Fun(build.Int(), build.Row(9), build.Var(2))}, []api.Row{build.Row(4, 0, 2)})
+	five := build.Fun(build.Int(), build.Row(9), build.Var(2))
+	want := build.Fun(five, build.Row(4), build.Fun(build.Fun(build.Var(5), build.Row(4, 0, 2), five), build.Row(4, 1), build.Var(8)))
 	if e != api.OK || !reflect.DeepEqual(got, want) {
 		t.Errorf("%v, %d, want %v", got, e, want)
 	}
 	if got, e := Take(api.Scheme{Type: sample()}, nil, nil); e != api.OK || !reflect.DeepEqual(got, sample()) {
 		t.Errorf("%v, %d", got, e)
 	}
-	idle := api.Scheme{Vars: []int{0, api.MaxVars - 1}, Rows: []int{0, 1, api.MaxVars - 1}, Type: integer()}
-	got, e = Take(idle, []api.Type{integer(), integer()}, []api.Row{row(-1), row(0), row(-1)})
-	if e != api.OK || !reflect.DeepEqual(got, integer()) {
+	idle := api.Scheme{Vars: []int{0, api.MaxVars - 1}, Rows: []int{0, 1, api.MaxVars - 1}, Type: build.Int()}
+	got, e = Take(idle, []api.Type{build.Int(), build.Int()}, []api.Row{build.Row(-1), build.Row(0), build.Row(-1)})
+	if e != api.OK || !reflect.DeepEqual(got, build.Int()) {
 		t.Errorf("%v, %d", got, e)
 	}
 }
@@ -95,45 +75,45 @@ func count(n int) []int {
 }
 
 func TestTakeForm(t *testing.T) {
-	one, two := []api.Type{integer()}, []api.Type{integer(), integer()}
-	empty := []api.Row{row(-1)}
-	great := integer()
+	one, two := []api.Type{build.Int()}, []api.Type{build.Int(), build.Int()}
+	empty := []api.Row{build.Row(-1)}
+	great := build.Int()
 	for range 120 {
-		great = fun(great, row(-1), integer())
+		great = build.Fun(great, build.Row(-1), build.Int())
 	}
-	full := fun(integer(), row(1, 32), integer())
+	full := build.Fun(build.Int(), build.Row(1, 32), build.Int())
 	for i, c := range []struct {
 		s  api.Scheme
 		ts []api.Type
 		rs []api.Row
 	}{
 		{api.Scheme{}, nil, nil},
-		{api.Scheme{Type: of(api.TyNode{Kind: 9})}, nil, nil},
-		{api.Scheme{Vars: []int{-1}, Type: integer()}, one, nil},
-		{api.Scheme{Vars: []int{api.MaxVars}, Type: integer()}, one, nil},
-		{api.Scheme{Vars: []int{3, 3}, Type: integer()}, two, nil},
-		{api.Scheme{Rows: []int{-1}, Type: integer()}, nil, empty},
-		{api.Scheme{Rows: []int{api.MaxVars}, Type: integer()}, nil, empty},
-		{api.Scheme{Rows: []int{3, 3}, Type: integer()}, nil, []api.Row{row(-1), row(-1)}},
-		{api.Scheme{Vars: []int{3}, Type: integer()}, nil, nil},
-		{api.Scheme{Vars: []int{3}, Type: integer()}, two, nil},
-		{api.Scheme{Type: integer()}, one, nil},
-		{api.Scheme{Rows: []int{3}, Type: integer()}, nil, nil},
-		{api.Scheme{Type: integer()}, nil, empty},
-		{api.Scheme{Vars: []int{3}, Type: integer()}, []api.Type{{}}, nil},
-		{api.Scheme{Rows: []int{3}, Type: integer()}, nil, []api.Row{row(-2)}},
-		{api.Scheme{Vars: []int{3}, Type: fun(variable(3), row(-1), variable(3))}, []api.Type{great}, nil},
-		{api.Scheme{Rows: []int{1}, Type: full}, nil, []api.Row{row(-1, 1)}},
-		{api.Scheme{Vars: count(api.MaxVars), Rows: []int{0}, Type: integer()},
+		{api.Scheme{Type: build.Of(api.TyNode{Kind: 9})}, nil, nil},
+		{api.Scheme{Vars: []int{-1}, Type: build.Int()}, one, nil},
+		{api.Scheme{Vars: []int{api.MaxVars}, Type: build.Int()}, one, nil},
+		{api.Scheme{Vars: []int{3, 3}, Type: build.Int()}, two, nil},
+		{api.Scheme{Rows: []int{-1}, Type: build.Int()}, nil, empty},
+		{api.Scheme{Rows: []int{api.MaxVars}, Type: build.Int()}, nil, empty},
+		{api.Scheme{Rows: []int{3, 3}, Type: build.Int()}, nil, []api.Row{build.Row(-1), build.Row(-1)}},
+		{api.Scheme{Vars: []int{3}, Type: build.Int()}, nil, nil},
+		{api.Scheme{Vars: []int{3}, Type: build.Int()}, two, nil},
+		{api.Scheme{Type: build.Int()}, one, nil},
+		{api.Scheme{Rows: []int{3}, Type: build.Int()}, nil, nil},
+		{api.Scheme{Type: build.Int()}, nil, empty},
+		{api.Scheme{Vars: []int{3}, Type: build.Int()}, []api.Type{{}}, nil},
+		{api.Scheme{Rows: []int{3}, Type: build.Int()}, nil, []api.Row{build.Row(-2)}},
+		{api.Scheme{Vars: []int{3}, Type: build.Fun(build.Var(3), build.Row(-1), build.Var(3))}, []api.Type{great}, nil},
+		{api.Scheme{Rows: []int{1}, Type: full}, nil, []api.Row{build.Row(-1, 1)}},
+		{api.Scheme{Vars: count(api.MaxVars), Rows: []int{0}, Type: build.Int()},
 			slices.Repeat(one, api.MaxVars), empty},
-		{api.Scheme{Vars: slices.Repeat([]int{1}, 1<<20), Type: integer()}, slices.Repeat(one, 1<<20), nil},
+		{api.Scheme{Vars: slices.Repeat([]int{1}, 1<<20), Type: build.Int()}, slices.Repeat(one, 1<<20), nil},
 	} {
 		if got, e := Take(c.s, c.ts, c.rs); got.Nodes != nil || e != api.ErrSchemeForm {
 			t.Errorf("%d: %v, %d", i, got, e)
 		}
 	}
-	s := api.Scheme{Vars: count(api.MaxVars), Type: integer()}
-	if got, e := Take(s, slices.Repeat(one, api.MaxVars), nil); e != api.OK || !reflect.DeepEqual(got, integer()) {
+	s := api.Scheme{Vars: count(api.MaxVars), Type: build.Int()}
+	if got, e := Take(s, slices.Repeat(one, api.MaxVars), nil); e != api.OK || !reflect.DeepEqual(got, build.Int()) {
 		t.Errorf("%v, %d", got, e)
 	}
 }
@@ -154,12 +134,12 @@ func TestCloseAndTake(t *testing.T) {
 		for i, v := range s.Vars {
 			shape.Size = 1 + random.Below(5)
 			ts = append(ts, samples.Type(&random, shape))
-			fresh = append(fresh, variable(100+i))
+			fresh = append(fresh, build.Var(100+i))
 			bs = append(bs, api.Bind{Var: v, Type: ts[i]})
 		}
 		for i, v := range s.Rows {
 			rs = append(rs, samples.Row(&random, shape))
-			newRows = append(newRows, row(100+i))
+			newRows = append(newRows, build.Row(100+i))
 			bs = append(bs, api.Bind{Var: v, IsRow: true, Row: rs[i]})
 		}
 		got, e := Take(s, ts, rs)

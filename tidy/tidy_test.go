@@ -7,29 +7,16 @@ import (
 
 	"trammel/agree"
 	"trammel/api"
+	"trammel/build"
 	"trammel/hsem"
 	"trammel/infer"
 	"trammel/match"
-	"trammel/parse"
 	"trammel/samples"
 	"trammel/scope"
 	"trammel/tree"
 )
 
 const ops = "op o : int -> int; "
-
-func resolved(t *testing.T, s string) api.Program {
-	t.Helper()
-	p, at, e := parse.Parse(ops + s)
-	if e != api.OK {
-		t.Fatalf("%q: %d at %d", s, e, at)
-	}
-	p, at, e = scope.Resolve(p)
-	if e != api.OK {
-		t.Fatalf("%q: %d at %d", s, e, at)
-	}
-	return p
-}
 
 // P25.1: what a text becomes, but for places.
 func TestTidy(t *testing.T) {
@@ -79,10 +66,10 @@ func TestTidy(t *testing.T) {
 		{"handle 1 + 1 with o v k -> k (2 + 2) return r -> r + (3 + 3) end", "handle 2 with o v k -> k 4 return r -> r + 6 end"},
 		{"fun x -> let y = 1 in if false then y else x", "fun x -> let y = 1 in x"},
 	} {
-		p := resolved(t, c.s)
+		p := build.Program(ops + c.s)
 		was := slices.Clone(p.Nodes)
 		got, e := Tidy(p)
-		if e != api.OK || !tree.Same(got.Nodes, resolved(t, c.want).Nodes) || !slices.Equal(got.Ops, p.Ops) {
+		if e != api.OK || !tree.Same(got.Nodes, build.Program(ops+c.want).Nodes) || !slices.Equal(got.Ops, p.Ops) {
 			t.Errorf("%q: %v, %d, want %q", c.s, got, e, c.want)
 		}
 		if !slices.Equal(p.Nodes, was) {
@@ -102,7 +89,7 @@ func TestPlaces(t *testing.T) {
 		{"if 1 < 2 then (3 * 4) else 5", []int{17}},
 		{"if true then fun x -> x else 5", []int{22, 13}},
 	} {
-		got, e := Tidy(resolved(t, c.s))
+		got, e := Tidy(build.Program(ops + c.s))
 		var places []int
 		for _, n := range got.Nodes {
 			places = append(places, n.At-len(ops))
@@ -125,7 +112,7 @@ func TestForm(t *testing.T) {
 			t.Errorf("%v: %v, %d", p, got, e)
 		}
 	}
-	p := resolved(t, "1")
+	p := build.Program(ops + "1")
 	got, _ := Tidy(p)
 	got.Nodes[0].Num, got.Ops[0].Name = 7, "changed"
 	if p.Nodes[0].Num != 1 || p.Ops[0].Name != "o" {

@@ -6,91 +6,67 @@ import (
 	"testing"
 
 	"trammel/api"
+	"trammel/build"
 	"trammel/samples"
 	"trammel/subst"
 	"trammel/typ"
 )
-
-func of(nodes ...api.TyNode) api.Type { return api.Type{Nodes: nodes} }
-
-func integer() api.Type { return of(api.TyNode{Kind: api.TypeInt}) }
-
-func truth() api.Type { return of(api.TyNode{Kind: api.TypeBool}) }
-
-func variable(v int) api.Type { return of(api.TyNode{Kind: api.TypeVar, Var: v}) }
-
-func row(tail int, counts ...int) api.Row {
-	r := api.Row{Tail: tail}
-	copy(r.Counts[:], counts)
-	return r
-}
-
-func fun(a api.Type, r api.Row, b api.Type) api.Type {
-	f, e := typ.Fun(a, r, b)
-	if e != api.OK {
-		panic(e)
-	}
-	return f
-}
-
-// pure is a function's type with an empty row.
-func pure(a, b api.Type) api.Type { return fun(a, row(-1), b) }
 
 func bind(v int, t api.Type) api.Bind { return api.Bind{Var: v, Type: t} }
 
 func tail(v int, r api.Row) api.Bind { return api.Bind{Var: v, IsRow: true, Row: r} }
 
 func TestUnify(t *testing.T) {
-	id := pure(variable(1), variable(1))
+	id := build.Pure(build.Var(1), build.Var(1))
 	for i, c := range []struct {
 		a, b  api.Type
 		fresh int
 		want  []api.Bind
 		e     api.Errno
 	}{
-		{integer(), integer(), 0, nil, api.OK},
-		{truth(), truth(), 0, nil, api.OK},
-		{integer(), truth(), 0, nil, api.ErrUnifyUnlike},
-		{truth(), integer(), 0, nil, api.ErrUnifyUnlike},
-		{integer(), id, 0, nil, api.ErrUnifyUnlike},
-		{id, truth(), 0, nil, api.ErrUnifyUnlike},
-		{variable(1), variable(1), 0, nil, api.OK},
-		{variable(1), variable(2), 0, []api.Bind{bind(1, variable(2))}, api.OK},
-		{variable(2), variable(1), 0, []api.Bind{bind(2, variable(1))}, api.OK},
-		{variable(1), integer(), 0, []api.Bind{bind(1, integer())}, api.OK},
-		{integer(), variable(1), 0, []api.Bind{bind(1, integer())}, api.OK},
-		{variable(1), id, 0, nil, api.ErrUnifyOccurs},
-		{id, variable(1), 0, nil, api.ErrUnifyOccurs},
-		{variable(2), id, 0, []api.Bind{bind(2, id)}, api.OK},
+		{build.Int(), build.Int(), 0, nil, api.OK},
+		{build.Bool(), build.Bool(), 0, nil, api.OK},
+		{build.Int(), build.Bool(), 0, nil, api.ErrUnifyUnlike},
+		{build.Bool(), build.Int(), 0, nil, api.ErrUnifyUnlike},
+		{build.Int(), id, 0, nil, api.ErrUnifyUnlike},
+		{id, build.Bool(), 0, nil, api.ErrUnifyUnlike},
+		{build.Var(1), build.Var(1), 0, nil, api.OK},
+		{build.Var(1), build.Var(2), 0, []api.Bind{bind(1, build.Var(2))}, api.OK},
+		{build.Var(2), build.Var(1), 0, []api.Bind{bind(2, build.Var(1))}, api.OK},
+		{build.Var(1), build.Int(), 0, []api.Bind{bind(1, build.Int())}, api.OK},
+		{build.Int(), build.Var(1), 0, []api.Bind{bind(1, build.Int())}, api.OK},
+		{build.Var(1), id, 0, nil, api.ErrUnifyOccurs},
+		{id, build.Var(1), 0, nil, api.ErrUnifyOccurs},
+		{build.Var(2), id, 0, []api.Bind{bind(2, id)}, api.OK},
 		{id, id, 0, nil, api.OK},
 		// What they take, then their rows, then what they give.
-		{pure(integer(), variable(1)), pure(truth(), variable(2)), 0, nil, api.ErrUnifyUnlike},
-		{fun(integer(), row(-1), variable(1)), fun(variable(2), row(3), truth()), 4,
-			[]api.Bind{bind(2, integer()), tail(3, row(-1)), bind(1, truth())}, api.OK},
-		{fun(integer(), row(-1), variable(1)), fun(integer(), row(-1, 1), id), 4, nil, api.ErrUnifyUnlike},
-		{fun(integer(), row(2, 1), integer()), fun(integer(), row(2), integer()), 4, nil, api.ErrUnifyUnlike},
-		{fun(variable(1), row(-1), integer()), fun(id, row(-1, 1), integer()), 4, nil, api.ErrUnifyOccurs},
-		{fun(integer(), row(-1), variable(1)), fun(integer(), row(-1, 1), id), 4, nil, api.ErrUnifyUnlike},
+		{build.Pure(build.Int(), build.Var(1)), build.Pure(build.Bool(), build.Var(2)), 0, nil, api.ErrUnifyUnlike},
+		{build.Fun(build.Int(), build.Row(-1), build.Var(1)), build.Fun(build.Var(2), build.Row(3), build.Bool()), 4,
+			[]api.Bind{bind(2, build.Int()), tail(3, build.Row(-1)), bind(1, build.Bool())}, api.OK},
+		{build.Fun(build.Int(), build.Row(-1), build.Var(1)), build.Fun(build.Int(), build.Row(-1, 1), id), 4, nil, api.ErrUnifyUnlike},
+		{build.Fun(build.Int(), build.Row(2, 1), build.Int()), build.Fun(build.Int(), build.Row(2), build.Int()), 4, nil, api.ErrUnifyUnlike},
+		{build.Fun(build.Var(1), build.Row(-1), build.Int()), build.Fun(id, build.Row(-1, 1), build.Int()), 4, nil, api.ErrUnifyOccurs},
+		{build.Fun(build.Int(), build.Row(-1), build.Var(1)), build.Fun(build.Int(), build.Row(-1, 1), id), 4, nil, api.ErrUnifyUnlike},
 		// Each new bind is put into all that are there; both sides are looked at under them.
-		{pure(variable(1), variable(2)), pure(variable(2), integer()), 0,
-			[]api.Bind{bind(1, integer()), bind(2, integer())}, api.OK},
-		{pure(variable(1), variable(1)), pure(variable(2), integer()), 0,
-			[]api.Bind{bind(1, integer()), bind(2, integer())}, api.OK},
-		{pure(variable(1), pure(variable(2), variable(1))), pure(variable(2), pure(integer(), variable(3))), 0,
-			[]api.Bind{bind(1, integer()), bind(2, integer()), bind(3, integer())}, api.OK},
-		{pure(variable(1), variable(2)), pure(variable(2), pure(variable(1), integer())), 0, nil, api.ErrUnifyOccurs},
+		{build.Pure(build.Var(1), build.Var(2)), build.Pure(build.Var(2), build.Int()), 0,
+			[]api.Bind{bind(1, build.Int()), bind(2, build.Int())}, api.OK},
+		{build.Pure(build.Var(1), build.Var(1)), build.Pure(build.Var(2), build.Int()), 0,
+			[]api.Bind{bind(1, build.Int()), bind(2, build.Int())}, api.OK},
+		{build.Pure(build.Var(1), build.Pure(build.Var(2), build.Var(1))), build.Pure(build.Var(2), build.Pure(build.Int(), build.Var(3))), 0,
+			[]api.Bind{bind(1, build.Int()), bind(2, build.Int()), bind(3, build.Int())}, api.OK},
+		{build.Pure(build.Var(1), build.Var(2)), build.Pure(build.Var(2), build.Pure(build.Var(1), build.Int())), 0, nil, api.ErrUnifyOccurs},
 		// New row variables, one behind each other.
-		{fun(fun(integer(), row(0, 1), integer()), row(1, 0, 1), integer()),
-			fun(fun(integer(), row(2, 0, 1), integer()), row(3, 1), integer()), 7,
-			[]api.Bind{tail(0, row(7, 0, 1)), tail(2, row(7, 1)), tail(1, row(8, 1)), tail(3, row(8, 0, 1))}, api.OK},
-		{fun(fun(integer(), row(0, 1), integer()), row(0), integer()),
-			fun(fun(integer(), row(1, 0, 1), integer()), row(-1, 1, 1), integer()), 2,
-			[]api.Bind{tail(0, row(-1, 1, 1)), tail(1, row(-1, 2)), tail(2, row(-1, 1))}, api.OK},
-		{fun(fun(integer(), row(0, 1), integer()), row(0), variable(4)),
-			fun(fun(integer(), row(1, 0, 1), integer()), row(1), integer()), 2, nil, api.ErrUnifyUnlike},
+		{build.Fun(build.Fun(build.Int(), build.Row(0, 1), build.Int()), build.Row(1, 0, 1), build.Int()),
+			build.Fun(build.Fun(build.Int(), build.Row(2, 0, 1), build.Int()), build.Row(3, 1), build.Int()), 7,
+			[]api.Bind{tail(0, build.Row(7, 0, 1)), tail(2, build.Row(7, 1)), tail(1, build.Row(8, 1)), tail(3, build.Row(8, 0, 1))}, api.OK},
+		{build.Fun(build.Fun(build.Int(), build.Row(0, 1), build.Int()), build.Row(0), build.Int()),
+			build.Fun(build.Fun(build.Int(), build.Row(1, 0, 1), build.Int()), build.Row(-1, 1, 1), build.Int()), 2,
+			[]api.Bind{tail(0, build.Row(-1, 1, 1)), tail(1, build.Row(-1, 2)), tail(2, build.Row(-1, 1))}, api.OK},
+		{build.Fun(build.Fun(build.Int(), build.Row(0, 1), build.Int()), build.Row(0), build.Var(4)),
+			build.Fun(build.Fun(build.Int(), build.Row(1, 0, 1), build.Int()), build.Row(1), build.Int()), 2, nil, api.ErrUnifyUnlike},
 		// A tail is put into types, too.
-		{fun(variable(0), row(0), integer()), fun(fun(integer(), row(0, 2), integer()), row(-1, 3), integer()), 1,
-			[]api.Bind{bind(0, fun(integer(), row(-1, 5), integer())), tail(0, row(-1, 3))}, api.OK},
+		{build.Fun(build.Var(0), build.Row(0), build.Int()), build.Fun(build.Fun(build.Int(), build.Row(0, 2), build.Int()), build.Row(-1, 3), build.Int()), 1,
+			[]api.Bind{bind(0, build.Fun(build.Int(), build.Row(-1, 5), build.Int())), tail(0, build.Row(-1, 3))}, api.OK},
 	} {
 		got, e := Unify(c.a, c.b, c.fresh)
 		if !reflect.DeepEqual(got, c.want) || e != c.e {
@@ -100,19 +76,19 @@ func TestUnify(t *testing.T) {
 }
 
 func TestForm(t *testing.T) {
-	effect := fun(integer(), row(5), integer())
+	effect := build.Fun(build.Int(), build.Row(5), build.Int())
 	for i, c := range []struct {
 		a, b  api.Type
 		fresh int
 	}{
-		{api.Type{}, integer(), 0},
-		{integer(), api.Type{}, 0},
-		{of(api.TyNode{Kind: 7}), integer(), 0},
-		{integer(), truth(), -1},
-		{integer(), truth(), api.MaxVars},
-		{effect, integer(), 5},
-		{integer(), effect, 5},
-		{pure(effect, integer()), integer(), 3},
+		{api.Type{}, build.Int(), 0},
+		{build.Int(), api.Type{}, 0},
+		{build.Of(api.TyNode{Kind: 7}), build.Int(), 0},
+		{build.Int(), build.Bool(), -1},
+		{build.Int(), build.Bool(), api.MaxVars},
+		{effect, build.Int(), 5},
+		{build.Int(), effect, 5},
+		{build.Pure(effect, build.Int()), build.Int(), 3},
 	} {
 		if got, e := Unify(c.a, c.b, c.fresh); got != nil || e != api.ErrUnifyForm {
 			t.Errorf("%d: %v, %d", i, got, e)
@@ -125,10 +101,10 @@ func TestForm(t *testing.T) {
 
 // doubling is two types under which variable 0 is a type of 2^(n+1) - 1 nodes.
 func doubling(n int) (api.Type, api.Type) {
-	a, b := integer(), integer()
+	a, b := build.Int(), build.Int()
 	for v := n - 1; v >= 0; v-- {
-		a = pure(variable(v), a)
-		b = pure(pure(variable(v+1), variable(v+1)), b)
+		a = build.Pure(build.Var(v), a)
+		b = build.Pure(build.Pure(build.Var(v+1), build.Var(v+1)), b)
 	}
 	return a, b
 }
@@ -149,30 +125,30 @@ func TestMany(t *testing.T) {
 		}
 	}
 	// A type that is too great when it is looked at; that it is unlike is told first.
-	great := integer()
+	great := build.Int()
 	for range 60 {
-		great = pure(great, integer())
+		great = build.Pure(great, build.Int())
 	}
-	twice := pure(variable(1), pure(pure(variable(1), pure(variable(1), variable(1))), variable(2)))
+	twice := build.Pure(build.Var(1), build.Pure(build.Pure(build.Var(1), build.Pure(build.Var(1), build.Var(1))), build.Var(2)))
 	for _, c := range []struct {
 		rest api.Type
 		want api.Errno
 	}{
-		{pure(variable(3), variable(4)), api.ErrUnifyMany},
-		{pure(pure(integer(), integer()), variable(4)), api.ErrUnifyMany},
-		{integer(), api.ErrUnifyUnlike},
+		{build.Pure(build.Var(3), build.Var(4)), api.ErrUnifyMany},
+		{build.Pure(build.Pure(build.Int(), build.Int()), build.Var(4)), api.ErrUnifyMany},
+		{build.Int(), api.ErrUnifyUnlike},
 	} {
-		if binds, e := Unify(twice, pure(great, c.rest), 0); binds != nil || e != c.want {
+		if binds, e := Unify(twice, build.Pure(great, c.rest), 0); binds != nil || e != c.want {
 			t.Errorf("%v, %d, want %d", binds, e, c.want)
 		}
 	}
 	// A count too great, in a type and in a row.
-	full := fun(integer(), row(0, 32), integer())
+	full := build.Fun(build.Int(), build.Row(0, 32), build.Int())
 	for _, c := range []struct{ a, b api.Type }{
-		{fun(variable(0), row(0), integer()), fun(full, row(-1, 1), integer())},
-		{fun(full, row(0), integer()), fun(variable(0), row(-1, 1), integer())},
-		{pure(fun(integer(), row(0), integer()), full), pure(fun(integer(), row(-1, 1), integer()), full)},
-		{pure(full, fun(integer(), row(1), integer())), pure(fun(integer(), row(1), integer()), fun(integer(), row(2, 1), integer()))},
+		{build.Fun(build.Var(0), build.Row(0), build.Int()), build.Fun(full, build.Row(-1, 1), build.Int())},
+		{build.Fun(full, build.Row(0), build.Int()), build.Fun(build.Var(0), build.Row(-1, 1), build.Int())},
+		{build.Pure(build.Fun(build.Int(), build.Row(0), build.Int()), full), build.Pure(build.Fun(build.Int(), build.Row(-1, 1), build.Int()), full)},
+		{build.Pure(full, build.Fun(build.Int(), build.Row(1), build.Int())), build.Pure(build.Fun(build.Int(), build.Row(1), build.Int()), build.Fun(build.Int(), build.Row(2, 1), build.Int()))},
 	} {
 		want := api.ErrUnifyMany
 		if c.b.Nodes[len(c.b.Nodes)-2].Row.Tail == 2 {
@@ -186,16 +162,20 @@ func TestMany(t *testing.T) {
 
 // P10.1: the last row variable may be made; then no rows may be made one any more.
 func TestLastRowVariable(t *testing.T) {
-	first := func(rest api.Type) api.Type { return pure(fun(integer(), row(0, 1), integer()), rest) }
-	second := func(rest api.Type) api.Type { return pure(fun(integer(), row(1, 0, 1), integer()), rest) }
-	a := fun(fun(integer(), row(0, 1), integer()), row(-1), integer())
-	if _, e := Unify(fun(integer(), row(0, 1), integer()), fun(integer(), row(1, 0, 1), integer()), api.MaxVars-1); e != api.OK {
+	first := func(rest api.Type) api.Type {
+		return build.Pure(build.Fun(build.Int(), build.Row(0, 1), build.Int()), rest)
+	}
+	second := func(rest api.Type) api.Type {
+		return build.Pure(build.Fun(build.Int(), build.Row(1, 0, 1), build.Int()), rest)
+	}
+	a := build.Fun(build.Fun(build.Int(), build.Row(0, 1), build.Int()), build.Row(-1), build.Int())
+	if _, e := Unify(build.Fun(build.Int(), build.Row(0, 1), build.Int()), build.Fun(build.Int(), build.Row(1, 0, 1), build.Int()), api.MaxVars-1); e != api.OK {
 		t.Error(e)
 	}
-	if binds, e := Unify(first(integer()), second(integer()), api.MaxVars-1); binds != nil || e != api.ErrUnifyMany {
+	if binds, e := Unify(first(build.Int()), second(build.Int()), api.MaxVars-1); binds != nil || e != api.ErrUnifyMany {
 		t.Errorf("%v, %d", binds, e)
 	}
-	if binds, e := Unify(first(integer()), second(integer()), api.MaxVars-2); len(binds) != 2 || e != api.OK {
+	if binds, e := Unify(first(build.Int()), second(build.Int()), api.MaxVars-2); len(binds) != 2 || e != api.OK {
 		t.Errorf("%v, %d", binds, e)
 	}
 	if binds, e := Unify(a, a, api.MaxVars-1); binds != nil || e != api.OK {
@@ -275,7 +255,7 @@ func (p *plain) one(a, b *term) bool {
 
 func (p *plain) oneRow(a, b api.Row) bool {
 	a, b = p.findRow(a), p.findRow(b)
-	left, right := row(-1), row(-1)
+	left, right := build.Row(-1), build.Row(-1)
 	for op := range a.Counts {
 		left.Counts[op] = max(b.Counts[op]-a.Counts[op], 0)
 		right.Counts[op] = max(a.Counts[op]-b.Counts[op], 0)
@@ -283,7 +263,7 @@ func (p *plain) oneRow(a, b api.Row) bool {
 	if a.Tail == b.Tail {
 		return left == right
 	}
-	if a.Tail < 0 && left != row(-1) || b.Tail < 0 && right != row(-1) {
+	if a.Tail < 0 && left != build.Row(-1) || b.Tail < 0 && right != build.Row(-1) {
 		return false
 	}
 	if a.Tail >= 0 && b.Tail >= 0 {
@@ -302,9 +282,9 @@ func (p *plain) oneRow(a, b api.Row) bool {
 func (p *plain) back(t *term) api.Type {
 	t = p.find(t)
 	if t.kind == api.TypeFun {
-		return fun(p.back(t.a), p.findRow(t.r), p.back(t.b))
+		return build.Fun(p.back(t.a), p.findRow(t.r), p.back(t.b))
 	}
-	return of(api.TyNode{Kind: t.kind, Var: t.v})
+	return build.Of(api.TyNode{Kind: t.kind, Var: t.v})
 }
 
 func text(t *testing.T, made api.Type) string {
