@@ -28,7 +28,7 @@ func (k *checker) isKnown(node int, here place) bool {
 	}
 	inside := here.knowing(m)
 	for _, t := range m.Types {
-		if !inside.knows(shape.Of(t)) {
+		if !inside.knows(t) {
 			return false
 		}
 	}
@@ -37,16 +37,16 @@ func (k *checker) isKnown(node int, here place) bool {
 			return false
 		}
 	}
-	return here.knows(k.types[node]) && here.knowsRow(m.Row)
+	return here.knows(m.Type) && here.knowsRow(m.Row)
 }
 
-func (p *place) knows(t *shape.Shape) bool {
-	all := true
-	t.Visit(
-		func(v int) { all = all && p.types.has(v) },
-		func(tail int) { all = all && p.tails.has(tail) },
-	)
-	return all
+func (p *place) knows(t api.Type) bool {
+	for _, n := range t.Nodes {
+		if n.Kind == api.TypeVar && !p.types.has(n.Var) || n.Kind == api.TypeFun && !p.knowsRow(n.Row) {
+			return false
+		}
+	}
+	return true
 }
 
 func (p *place) knowsRow(r api.Row) bool { return r.Tail < 0 || p.tails.has(r.Tail) }

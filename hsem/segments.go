@@ -40,7 +40,7 @@ func (t *segments) frames() int {
 	return t.count
 }
 
-func (t *segments) has(op int) bool { return t.ops>>op&1 == 1 }
+func (t *segments) has(op int) bool { return t != nil && t.ops>>op&1 == 1 }
 
 // join is all segments of both.
 func join(lower, upper *segments) *segments {

@@ -64,17 +64,20 @@ func (s *stack) pop() frame {
 
 // take takes all frames from the nearest handler's of an operation on.
 func (s *stack) take(op int) (frame, *segments, bool) {
-	all := join(s.below, alone(s.segment))
-	if !all.has(op) {
-		return frame{}, nil, false
+	below, taken := s.below, alone(s.segment)
+	if !taken.has(op) {
+		if !below.has(op) {
+			return frame{}, nil, false
+		}
+		rest, from := below.cut(op)
+		below, taken = rest, join(from, taken)
 	}
-	below, taken := all.cut(op)
 	s.below, s.segment = below.last()
 	return taken.first().handler, taken, true
 }
 
 // resume puts frames atop.
 func (s *stack) resume(frames *segments) {
-	all := join(join(s.below, alone(s.segment)), frames)
-	s.below, s.segment = all.last()
+	lower, top := frames.last()
+	s.below, s.segment = join(join(s.below, alone(s.segment)), lower), top
 }
