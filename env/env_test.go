@@ -29,3 +29,18 @@ func TestAt(t *testing.T) {
 		t.Errorf("%d, %d", first, second)
 	}
 }
+
+// There are few parts, so that what is bound far out is found soon.
+func TestFewParts(t *testing.T) {
+	var l List[int]
+	for i := range 10000 {
+		l = l.With(i)
+		parts := 0
+		for p := l.first; p != nil; p = p.out {
+			parts++
+		}
+		if parts > 14 {
+			t.Fatalf("%d parts of %d things", parts, i+1)
+		}
+	}
+}

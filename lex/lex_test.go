@@ -56,6 +56,7 @@ func TestTokens(t *testing.T) {
 		{"#a\nb#c\nd", []api.Token{name("b", 3), name("d", 7)}},
 		{"x", []api.Token{name("x", 0)}},
 		{"x_1 y", []api.Token{name("x_1", 0), name("y", 4)}},
+		{"az za09", []api.Token{name("az", 0), name("za09", 3)}},
 		{long, []api.Token{name(long, 0)}},
 		{"fun x->x", []api.Token{key("fun", 0), name("x", 4), mark("->", 5), name("x", 7)}},
 		{"funx", []api.Token{name("funx", 0)}},

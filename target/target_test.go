@@ -37,6 +37,13 @@ func TestMay(t *testing.T) {
 	if !May(sample()) {
 		t.Fatal("the sample may not be")
 	}
+	for _, at := range []int{2, 7, 12} {
+		ts := sample()
+		ts[at].Num = 0
+		if !May(ts) {
+			t.Errorf("node %d may not have 0", at)
+		}
+	}
 	for i, f := range []func(ts []api.Target){
 		func(ts []api.Target) { ts[0].Num = -1 },
 		func(ts []api.Target) { ts[0].Num = api.MaxTargets },

@@ -68,6 +68,11 @@ func TestMay(t *testing.T) {
 			t.Errorf("operations %v may be", bad)
 		}
 	}
+	for prim := api.PrimAdd; prim <= api.PrimLess; prim++ {
+		if !May(api.Program{Nodes: change(func(ns []api.Node) { ns[6].Num = prim })}) {
+			t.Errorf("prim %d may not be", prim)
+		}
+	}
 	if May(api.Program{Nodes: bare(sample())}) || May(api.Program{}) {
 		t.Error("a tree without names, or none, is named")
 	}
@@ -175,6 +180,13 @@ func TestPart(t *testing.T) {
 		{Kind: api.NodeRec, X: "g", Y: "h", A: 0, B: 1, At: 9}}
 	if e != api.OK || !slices.Equal(part, want) {
 		t.Errorf("Part at 14 = %v, %d", part, e)
+	}
+	apart := append([]api.Node{{Kind: api.NodeInt}}, ns[3:6]...)
+	apart = append(apart, api.Node{Kind: api.NodeIf, A: 1, B: 2, C: 3}, api.Node{Kind: api.NodeApp, A: 0, B: 4})
+	choice, e := Part(apart, 4)
+	want = []api.Node{ns[3], ns[4], ns[5], {Kind: api.NodeIf, A: 0, B: 1, C: 2}}
+	if e != api.OK || !slices.Equal(choice, want) {
+		t.Errorf("Part at 4 = %v, %d", choice, e)
 	}
 	part[0].Name = "changed"
 	if ns[12].Name != "k" {
