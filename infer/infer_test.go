@@ -262,6 +262,45 @@ func TestCountsTooGreat(t *testing.T) {
 	}
 }
 
+// P13.1, limits: what gets too great behind the last look at it is told at last, of the first node.
+func TestTooGreatAtLast(t *testing.T) {
+	const op = "op o : int -> int; "
+	great := func(operands int) string { return strings.Repeat("fun a -> ", operands) + "0" }
+	seven := "fun x -> let h = "
+	for _, name := range strings.Fields("b c d e f g") {
+		seven += "fun " + name + " -> "
+	}
+	for _, name := range strings.Fields("x b c d e f") {
+		seven += "if true then " + name + " else "
+	}
+	seven += "g in if true then x else ("
+	handlers := func(many int) string {
+		return op + strings.Repeat("handle ", many) + "(fun u -> handle 7 with o v k -> 2 return r -> 3 end) 0" +
+			strings.Repeat(" with o v k -> 1 return r -> r end", many)
+	}
+	for _, c := range []struct {
+		s    string
+		text string
+	}{
+		// A type: that of h is seven times what x is to be.
+		{seven + great(17) + ")", ""},
+		{seven + great(18) + ")", "fun b"},
+		// A place's row: that of a handler in a function that is called in as many others as may be.
+		{handlers(31), ""},
+		{handlers(32), "7 with"},
+	} {
+		p := build.Program(c.s)
+		want, wantError := 0, api.OK
+		if c.text != "" {
+			want, wantError = strings.Index(c.s, c.text), api.ErrInferMany
+		}
+		if got, at, e := Infer(p); at != want || e != wantError || (e == api.OK) != (got.Nodes != nil) {
+			t.Errorf("%q: %d, %d, want %d, %d", c.s, at, e, want, wantError)
+		}
+		hold(t, p)
+	}
+}
+
 // P13.2: what has a type by how it is made has one, of which that is an instance.
 func TestTyped(t *testing.T) {
 	random := samples.Random(14)
